@@ -56,8 +56,8 @@ func (r *Reader) Number(size int) int {
 
 // Bytes returns the next n bytes in new memory, and none if there are fewer.
 func (r *Reader) Bytes(n int) []byte {
-	if r.bad || n < 0 || n > len(r.b)-r.at {
-		r.bad = true
+	r.bad = r.bad || n < 0 || n > len(r.b)-r.at
+	if r.bad || n == 0 {
 		return nil
 	}
 	b := bytes.Clone(r.b[r.at : r.at+n])
