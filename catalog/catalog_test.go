@@ -51,6 +51,9 @@ func TestNew(t *testing.T) {
 			t.Error(pools, e)
 		}
 	}
+	if c, e := New(make([]int, api.MaxVols)...); e != api.OK || len(c.Vols) != api.MaxVols {
+		t.Error(c, e)
+	}
 	c, e := New(0, 1, 1)
 	want := []api.Vol{{State: api.VolScratch}, {Pool: 1, State: api.VolScratch}, {Pool: 1, State: api.VolScratch}}
 	if e != api.OK || c.Seq != 0 || len(c.Snaps)+len(c.Chunks)+len(c.Exps) != 0 || !slices.Equal(c.Vols, want) || Check(c) != api.OK {
@@ -66,6 +69,26 @@ func TestCheckOfValidCatalogs(t *testing.T) {
 	for i, change := range []func(*api.Catalog){
 		func(c *api.Catalog) {},
 		func(c *api.Catalog) { c.Seq = api.MaxSeq },
+		func(c *api.Catalog) { c.Snaps[0].Seq, c.Exps = 0, nil },
+		func(c *api.Catalog) { c.Snaps[0].Seq, c.Exps[0].Of, c.Exps[1].Of = 3, 1, 1 },
+		func(c *api.Catalog) { c.Vols = append(c.Vols, slices.Repeat(c.Vols[2:3], 4)...) },
+		func(c *api.Catalog) {
+			for i := len(c.Snaps); i < api.MaxSnaps; i++ {
+				c.Snaps = append(c.Snaps, api.Snap{Seq: 20 + i, Man: api.Manifest{Name: string(rune('a' + i))}})
+			}
+			c.Seq = 100
+		},
+		func(c *api.Catalog) {
+			for i := len(c.Chunks); i < api.MaxChunks; i++ {
+				c.Chunks = append(c.Chunks, api.Chunk{Id: [32]byte{200, byte(i)}, Staged: true, Data: []byte{1}})
+			}
+		},
+		func(c *api.Catalog) {
+			c.Seq = 1000
+			for i := len(c.Exps); i < api.MaxExps; i++ {
+				c.Exps = append(c.Exps, api.Exp{Seq: 100 + i, Locs: []api.Loc{loc(0, 1, 0)}})
+			}
+		},
 		func(c *api.Catalog) { c.Chunks[0].Data = make([]byte, api.MaxChunk) },
 		func(c *api.Catalog) { c.Exps[1].Of = 4 },
 		func(c *api.Catalog) { c.Exps[1].Seq = 8 },
@@ -252,6 +275,9 @@ func TestQuestionsOnAnyCatalog(t *testing.T) {
 	l := []api.Loc{loc(-1, 0, 0), loc(4, 0, 0), loc(2, 0, 0)}
 	if !In(c, l, 1) || In(c, l, 0) || In(c, nil, 0) || In(c, l[:2], 0) || In(api.Catalog{}, l, 1) || !In(c, []api.Loc{loc(math.MaxInt, 0, 0), loc(3, 0, 0)}, 0) || In(c, l, 7) {
 		t.Error("In")
+	}
+	if !In(c, []api.Loc{loc(0, 1, 0)}, 0) || In(c, []api.Loc{loc(0, 1, 0)}, 1) {
+		t.Error("In on the first volume")
 	}
 	if !reflect.DeepEqual(c, was) {
 		t.Error("the argument was changed")

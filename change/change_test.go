@@ -189,6 +189,30 @@ func TestWrote(t *testing.T) {
 	})
 }
 
+func TestWroteOfManifestsAndManyItems(t *testing.T) {
+	becomes(t, "the first snapshot", api.Change{Kind: api.ChWrote, Vol: 0, Items: []api.Item{{Kind: api.RecManifest, Seq: 1, Off: 4, Len: 30}}}, func(c *api.Catalog) {
+		c.Vols[0].Files = 3
+		c.Snaps[0].Locs = append(c.Snaps[0].Locs, api.Loc{Vol: 0, File: 3, Off: 4, Len: 30})
+	})
+	var items []api.Item
+	for i := range api.MaxRecords {
+		items = append(items, api.Item{Kind: api.RecChunk, Id: id(1), Off: i, Len: 30})
+	}
+	if c, e := Apply(sample(), api.Change{Kind: api.ChWrote, Vol: 0, Items: items}); e != api.OK || len(c.Chunks[0].Locs) != 2+api.MaxRecords {
+		t.Error(e)
+	}
+	c := sample()
+	c.Chunks = append([]api.Chunk{{Staged: true, Data: []byte("zero")}}, c.Chunks...)
+	c, e := Apply(c, api.Change{Kind: api.ChWrote, Vol: 0, Items: []api.Item{{Kind: api.RecManifest, Seq: 3, Len: 30}}})
+	if e != api.OK || !c.Chunks[0].Staged {
+		t.Error("a manifest unstages the chunk with the zero id", e)
+	}
+	c, e = Apply(c, api.Change{Kind: api.ChWrote, Vol: 0, Items: []api.Item{{Kind: api.RecExpire, Seq: 6, Of: 2, Len: 30}}})
+	if e != api.OK || len(c.Chunks) != 5 || !c.Chunks[0].Staged {
+		t.Error("an expiry of no snapshot drops chunks", e)
+	}
+}
+
 func TestWroteErrors(t *testing.T) {
 	ok := api.Item{Kind: api.RecChunk, Id: id(2), Len: 30}
 	with := func(vol int, l ...api.Item) api.Change { return api.Change{Kind: api.ChWrote, Vol: vol, Items: l} }

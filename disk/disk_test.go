@@ -123,6 +123,24 @@ func TestExampleOfTheChapter(t *testing.T) {
 	holds(t, d, 2, 0)
 }
 
+func TestEraseIsDurable(t *testing.T) {
+	p, d := newDisk(t, 2)
+	d.Write(0, filled(1))
+	d.Sync()
+	d.Write(1, filled(2))
+	expect(t, d.Erase(), api.OK)
+	d.Write(0, filled(3))
+	p.Cut([]bool{false, true}, -1)
+	p.Start()
+	holds(t, d, 0, 0)
+	holds(t, d, 1, 0)
+	d.Write(1, filled(4))
+	d.Erase()
+	p.Cut([]bool{true}, -1)
+	p.Start()
+	holds(t, d, 1, 0)
+}
+
 func TestTornSectors(t *testing.T) {
 	p, d := newDisk(t, 2)
 	d.Write(0, filled(1))

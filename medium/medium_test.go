@@ -35,7 +35,7 @@ func same(a, b api.Medium) bool {
 func TestCheck(t *testing.T) {
 	full := api.Medium{Cap: 1, Cells: []api.Cell{mark}}
 	valid := []api.Medium{{Cap: 1}, {Cap: api.MaxCells}, full, sample(), {Cap: 1, Cells: []api.Cell{torn("")}},
-		{Cap: 1, Cells: []api.Cell{block(string(make([]byte, api.MaxBlock)))}}, {Cap: 1, Cells: []api.Cell{{Kind: api.CellMark, Bad: true}}}}
+		{Cap: 1, Cells: []api.Cell{block(string(make([]byte, api.MaxBlock)))}}, {Cap: 1, Cells: []api.Cell{torn(string(make([]byte, api.MaxBlock)))}}, {Cap: 1, Cells: []api.Cell{{Kind: api.CellMark, Bad: true}}}}
 	for i, m := range valid {
 		if e := Check(m); e != api.OK {
 			t.Error("valid", i, e)

@@ -45,6 +45,9 @@ func TestMoves(t *testing.T) {
 	expect(t, []int{4, 3}, l, readMove(0, l[1]), readMove(1, l[0]), readMove(1, l[2]))
 	m := reads(1, 2, 3, 4)
 	expect(t, []int{8, 9, math.MinInt}, m, mountMove(2, 1), readMove(2, m[0]), mountMove(0, 2), readMove(0, m[1]), mountMove(1, 3), readMove(1, m[2]), mountMove(2, 4), readMove(2, m[3]))
+	expect(t, []int{0, -1}, m[:1], mountMove(1, 1), readMove(1, m[0]))
+	z := reads(0, 1)
+	expect(t, []int{-1}, z, mountMove(0, 0), readMove(0, z[0]), mountMove(0, 1), readMove(0, z[1]))
 	expect(t, []int{0}, nil)
 }
 

@@ -242,9 +242,7 @@ func TestRebuildErrors(t *testing.T) {
 
 // volumeOf returns a volume on which a test writes.
 func volumeOf(g *rig, vol int) *volume.Volume {
-	d, e := g.r.Mount(vol)
-	g.ok(e)
-	v, e := volume.New(d, g.c.Block)
+	v, e := volume.New(mount(g, vol), g.c.Block)
 	g.ok(e)
 	return v
 }

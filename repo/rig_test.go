@@ -9,6 +9,7 @@ import (
 	"cellarer/api"
 	"cellarer/catalog"
 	"cellarer/disk"
+	"cellarer/drive"
 	"cellarer/frame"
 	"cellarer/manifest"
 	"cellarer/power"
@@ -202,4 +203,12 @@ func (g *rig) twin() *rig {
 		h.ok(h.r.Put(vol, m))
 	}
 	return h
+}
+
+// mount returns the drive that holds the volume.
+func mount(g *rig, vol int) *drive.Drive {
+	g.t.Helper()
+	d, e := g.r.Mount(vol)
+	g.ok(e)
+	return d
 }

@@ -98,6 +98,33 @@ func TestSaveErrors(t *testing.T) {
 	}
 }
 
+func TestStateWithoutPower(t *testing.T) {
+	p, d := newDisk(t, 300)
+	s := open(t, d)
+	s.Save([]byte("kept"))
+	p.Cut(nil, -1)
+	if string(s.State()) != "kept" || s.Count() != 1 {
+		t.Error(s.State(), s.Count())
+	}
+}
+
+func TestTwoStoresOnADisk(t *testing.T) {
+	_, d := newDisk(t, 300)
+	a, b := open(t, d), open(t, d)
+	a.Save([]byte("by a"))
+	if string(b.State()) != "by a" {
+		t.Error(b.State())
+	}
+	b.Save([]byte("by b"))
+	if a.Count() != 2 || string(a.State()) != "by b" {
+		t.Error(a.State(), a.Count())
+	}
+	d.Erase()
+	if len(a.State()) != 0 || a.Count() != 0 {
+		t.Error("the state of an erased disk")
+	}
+}
+
 func TestOnlyTheFirstSectorsAreUsed(t *testing.T) {
 	_, d := newDisk(t, 310)
 	s := open(t, d)

@@ -189,6 +189,31 @@ func TestAppendErrors(t *testing.T) {
 	}
 }
 
+func TestAFullTape(t *testing.T) {
+	_, d, v := load(t, 64, api.Medium{Cap: 4})
+	appended(t, v, 0, rec(api.RecChunk, 0, "x"))
+	if v.Room(1) != 0 {
+		t.Error(v.Room(1))
+	}
+	_, e := v.Append(1, rec(api.RecChunk, 0, "x"))
+	expect(t, e, api.ErrFull)
+	expect(t, v.Trim(1), api.OK)
+	if len(d.Medium().Cells) != 4 {
+		t.Error(d.Medium())
+	}
+}
+
+func TestReadOfNoAggregate(t *testing.T) {
+	_, _, v := load(t, 64, api.Medium{Cap: 20})
+	appended(t, v, 0, rec(api.RecChunk, 0, "x"))
+	for _, file := range []int{2, 3, math.MaxInt} {
+		v.Label()
+		if b, e := v.Read(file, 0, 1); e != api.ErrNone || len(b) != 0 {
+			t.Error(file, b, e)
+		}
+	}
+}
+
 func TestTrim(t *testing.T) {
 	p, d, v := load(t, 32, api.Medium{Cap: 20})
 	for i := range 3 {

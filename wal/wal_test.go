@@ -161,6 +161,67 @@ func TestAppendUntilFull(t *testing.T) {
 	}
 }
 
+func TestRoomWithoutPower(t *testing.T) {
+	p, d := newDisk(t, 302)
+	l, _, _ := open(t, d)
+	l.Save(nil)
+	l.Append([]byte("a"))
+	p.Cut(nil, -1)
+	if !l.Room(240) || l.Room(400) {
+		t.Error("another room without power")
+	}
+	p.Start()
+	l.Save(nil)
+	p.Cut(nil, -1)
+	if !l.Room(400) {
+		t.Error("another room without power after a Save")
+	}
+}
+
+// TestRoomAfterALoss goes on with a log whose Append was interrupted but has taken effect.
+func TestRoomAfterALoss(t *testing.T) {
+	p, d := newDisk(t, 302)
+	l, _, _ := open(t, d)
+	l.Save(nil)
+	p.Trip(2, []bool{true}, -1)
+	if e := l.Append([]byte("a")); e != api.ErrOff {
+		t.Error(e)
+	}
+	p.Start()
+	if l.Room(400) || !l.Room(240) {
+		t.Error("the room does not know of the change")
+	}
+	if e := l.Append([]byte("b")); e != api.OK {
+		t.Error(e)
+	}
+	is(t, d, "", "a", "b")
+}
+
+// TestBytesThatLookLikeAHead appends what the sectors of a later state's changes look like.
+func TestBytesThatLookLikeAHead(t *testing.T) {
+	_, d := newDisk(t, 310)
+	l, _, _ := open(t, d)
+	l.Save([]byte("first"))
+	var forged []byte
+	for range 4 {
+		sector := make([]byte, api.SectorSize)
+		copy(sector, headOf(2, 3))
+		forged = append(forged, sector...)
+	}
+	for shift := range 20 {
+		l.Save([]byte("first"))
+		l.Append(append(make([]byte, 240+shift), forged...))
+	}
+	is(t, d, "first", string(append(make([]byte, 259), forged...)))
+	count := l.s.Count()
+	copy(forged, headOf(count+1, 3))
+	l.Save(nil)
+	l.Append(append(make([]byte, 240), forged...))
+	l.Save([]byte("second"))
+	l.Append([]byte("x"))
+	is(t, d, "second", "x")
+}
+
 func TestOthersOnTheDisk(t *testing.T) {
 	_, d := newDisk(t, 320)
 	for i := 300; i < 320; i++ {
