@@ -111,6 +111,17 @@ func sameCatalog(a, b api.Catalog) bool {
 	return e == api.OK && f == api.OK && bytes.Equal(x, y)
 }
 
+// TestTheDiskIsErasedUnderARepo sees that the next change makes everything durable again.
+func TestTheDiskIsErasedUnderARepo(t *testing.T) {
+	g := newRig(t, config())
+	g.backup("one", text(1, 100))
+	g.ok(g.d.Erase())
+	g.sound()
+	g.backup("two", text(2, 100))
+	g.ok(g.open())
+	g.sound()
+}
+
 // fill backs the same chunks up until less than the length of their manifest is left of the state, and returns what is left.
 func (g *rig) fill() int {
 	g.t.Helper()

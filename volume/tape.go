@@ -36,6 +36,49 @@ func (t tape) close(blocks [][]byte) api.Errno {
 	return t.Mark()
 }
 
+// first reads the block at the beginning, if a mark follows it.
+func (t tape) first() ([]byte, api.Errno) {
+	if e := t.Locate(0, 0); e != api.OK {
+		return nil, e
+	}
+	b, e := t.Read()
+	if e != api.OK {
+		return nil, e
+	}
+	if _, e := t.Read(); e != api.ErrMark {
+		return nil, api.ErrNone
+	}
+	return b, api.OK
+}
+
+// bytes reads n bytes from an offset in the next block on.
+func (t tape) bytes(from, n int) ([]byte, api.Errno) {
+	var out []byte
+	for ; len(out) < n; from = 0 {
+		to := min(t.size, from+n-len(out))
+		b, e := t.block()
+		if e != api.OK {
+			return nil, e
+		}
+		if len(b) < to {
+			return nil, api.ErrNone
+		}
+		out = append(out, b[from:to]...)
+	}
+	return out, api.OK
+}
+
+// back sets the position to an earlier one: a call that ends with an error leaves nothing changed.
+func (t tape) back(place int) {
+	marks, from := 0, 0
+	for i, c := range t.Medium().Cells[:place] {
+		if c.Kind == api.CellMark {
+			marks, from = marks+1, i+1
+		}
+	}
+	t.Locate(marks, place-from)
+}
+
 // block reads the next block of an aggregate; there is none at a mark and at the end of the tape.
 func (t tape) block() ([]byte, api.Errno) {
 	b, e := t.Read()

@@ -214,6 +214,32 @@ func TestReadOfNoAggregate(t *testing.T) {
 	}
 }
 
+func TestErrorsKeepThePosition(t *testing.T) {
+	_, d, v := load(t, 32, api.Medium{Cap: 30})
+	appended(t, v, 0, rec(api.RecChunk, 0, string(make([]byte, 60))))
+	appended(t, v, 1, rec(api.RecChunk, 0, "x"))
+	m, _ := medium.Spoil(d.Medium(), 3)
+	m, _ = medium.Spoil(m, 0)
+	_, d, v = load(t, 32, m)
+	for file := range 3 {
+		for block := range 2 {
+			d.Locate(file, block)
+			place := d.Place()
+			_, e := v.Label()
+			expect(t, e, api.ErrLabel)
+			_, e = v.Read(1, 0, 40)
+			expect(t, e, api.ErrTorn)
+			_, e = v.Read(2, 0, 90)
+			expect(t, e, api.ErrNone)
+			_, e = v.Read(7, 0, 1)
+			expect(t, e, api.ErrNone)
+			if d.Place() != place {
+				t.Error(file, block, d.Place(), place)
+			}
+		}
+	}
+}
+
 func TestTrim(t *testing.T) {
 	p, d, v := load(t, 32, api.Medium{Cap: 20})
 	for i := range 3 {

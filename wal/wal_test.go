@@ -103,9 +103,13 @@ func TestSaveAndAppend(t *testing.T) {
 	is(t, d, "next", "b")
 	d.Erase()
 	is(t, d, "")
-	if e := l.Append([]byte("x")); e != api.ErrState {
+	if e := l.Append([]byte("x")); l.Room(0) || e != api.ErrFull {
 		t.Error("Append on an erased disk", e)
 	}
+	is(t, d, "")
+	l.Save([]byte("third"))
+	l.Append([]byte("c"))
+	is(t, d, "third", "c")
 }
 
 func TestRoomAfterASave(t *testing.T) {
